@@ -60,7 +60,7 @@ func TestCols(t *testing.T) {
 	if got := Cols(nil, 1); len(got) != 0 {
 		t.Error(got)
 	}
-	Cols(rows(), 9, -1)
+	Cols(rows(), 9, 3, -1)
 	Cols(rows())
 }
 
@@ -155,6 +155,8 @@ func TestSet(t *testing.T) {
 		{[]api.Set{set(1, num(math.MinInt64)), add(1, -1)}, nil},
 		{[]api.Set{set(1, num(math.MinInt64)), add(1, math.MinInt64)}, nil},
 		{[]api.Set{add(1, math.MaxInt64), set(1, num(0))}, nil},
+		{[]api.Set{set(0, num(7))}, []api.Val{num(7), num(5), text("a"), none(api.KInt)}},
+		{[]api.Set{set(4, num(1))}, nil},
 		{[]api.Set{set(9, num(1))}, nil},
 		{[]api.Set{set(-1, num(1))}, nil},
 	} {

@@ -110,6 +110,12 @@ func TestUnpackRefuses(t *testing.T) {
 			t.Error(i, got, ok)
 		}
 	}
+	if got, ok := Unpack(nil, -7, 3); !ok || len(got) != 3 {
+		t.Error(got, ok)
+	}
+	if got, ok := Unpack(make([]byte, 8), 70, 1); !ok || len(got) != 1 {
+		t.Error(got, ok)
+	}
 	if got, ok := Unpack(nil, 0, 65535); !ok || len(got) != 65535 {
 		t.Error(len(got), ok)
 	}

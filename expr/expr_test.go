@@ -140,6 +140,16 @@ func TestOpHasNothingElse(t *testing.T) {
 	}
 }
 
+// TestMostSets: of a schema that has more columns than may be set.
+func TestMostSets(t *testing.T) {
+	s := schema()
+	s.Cols = append(s.Cols, api.Col{Name: "e", Kind: api.KInt})
+	four := []api.Set{set(5, num(1)), set(1, num(1)), set(2, text("")), set(3, num(1))}
+	if !Op(s, update(four...)) || Op(s, update(append(four, set(4, text("")))...)) {
+		t.Error("4, and 5")
+	}
+}
+
 func TestProgram(t *testing.T) {
 	roll := api.Op{Kind: api.ORoll}
 	if !Program(schema()) || !Program(schema(), slices.Repeat([]api.Op{roll}, 16)...) || !Program(schema(), scan(0), roll, update(set(1, num(1)))) {

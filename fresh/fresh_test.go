@@ -38,6 +38,19 @@ func TestOpIsWhole(t *testing.T) {
 	}
 }
 
+func TestSchemaAndVersionAreWhole(t *testing.T) {
+	s := api.Schema{Cols: []api.Col{{Name: "id", Kind: api.KInt}}}
+	c := Schema(s)
+	c.Cols[0].Name = "z"
+	v := api.Version{ID: 1, Row: []api.Val{bytesVal("ab")}}
+	w := Version(v)
+	w.Row[0].Bytes[0] = 'z'
+	w.Row[0].Kind = 9
+	if s.Cols[0].Name != "id" || string(v.Row[0].Bytes) != "ab" || v.Row[0].Kind != api.KBytes || w.ID != 1 {
+		t.Error("shared", s, v)
+	}
+}
+
 func TestEventsAreWhole(t *testing.T) {
 	l := []api.Event{{Kind: api.LRes, Client: 2, N: 1, Res: api.Res{N: 3, Rows: [][]api.Val{{bytesVal("ab")}}}, At: 4, Err: 5}}
 	c := Events(l)

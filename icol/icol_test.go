@@ -26,6 +26,7 @@ func TestTell(t *testing.T) {
 		{api.EFrame, []int64{10, 15, 12}, []byte{3, 20, 3, 0x15, 0}}, // 000 101 010
 		{api.EFrame, []int64{5, 5}, []byte{3, 10, 0}},
 		{api.EFrame, []int64{-3, -2}, []byte{3, 5, 1, 0x40}},
+		{api.EFrame, []int64{math.MaxInt64, math.MaxInt64 - 1}, []byte{3, 252, 255, 255, 255, 255, 255, 255, 255, 255, 1, 1, 0x80}},
 		{api.EDict, []int64{9}, []byte{4, 1, 18}},
 		{api.EDict, []int64{9, 9}, []byte{4, 1, 18}},
 		{api.EDict, []int64{9, -1, 9}, []byte{4, 2, 1, 18, 0xa0}},

@@ -194,6 +194,19 @@ func TestSame(t *testing.T) {
 	}
 }
 
+// TestRowsThatAreShort: what a row does not have is nothing to ask of.
+func TestRowsThatAreShort(t *testing.T) {
+	row := []api.Val{num(5)}
+	for i, p := range []api.Pred{compare(1, api.CEq, num(1)), isNull(1), compare(-1, api.CEq, num(1)), isNull(-1)} {
+		if got := Eval(p, row); got != api.VNone {
+			t.Error(i, got)
+		}
+	}
+	if got := Eval(isNull(0), row); got != api.VFalse {
+		t.Error(got)
+	}
+}
+
 func TestPredsThatAreNotOkEnd(t *testing.T) {
 	row := []api.Val{num(5)}
 	loop := make([]api.Pred, 9)
@@ -221,8 +234,11 @@ func TestMemoryIsNew(t *testing.T) {
 	q := Not(l[0])
 	p.List[0].Val.Bytes[0] = 'z'
 	q.List[0].Val.Bytes[0] = 'z'
+	r := Any(l[:2]...)
+	r.List[0].Val.Bytes[0] = 'z'
+	r.List[1] = Any()
 	_ = append(p.List, Any())
-	if string(l[0].Val.Bytes) != "ab" || l[2].Kind != api.PTrue {
+	if string(l[0].Val.Bytes) != "ab" || l[1].Kind != api.PTrue || l[2].Kind != api.PTrue {
 		t.Error("shared", l)
 	}
 }

@@ -31,6 +31,7 @@ func TestOk(t *testing.T) {
 		{cols(api.Col{Name: "", Kind: api.KInt}), false},
 		{cols(api.Col{Name: "abcdefgh", Kind: api.KInt}), true},
 		{cols(api.Col{Name: "abcdefghi", Kind: api.KInt}), false},
+		{cols(api.Col{Name: "az", Kind: api.KInt}), true},
 		{cols(api.Col{Name: "aB", Kind: api.KInt}), false},
 		{cols(api.Col{Name: "a1", Kind: api.KInt}), false},
 		{cols(api.Col{Name: "a{", Kind: api.KInt}), false},

@@ -81,6 +81,8 @@ func TestSeesAndBase(t *testing.T) {
 		{span(at(1), by(8)), 8, 9, false, true, nil, nil},
 		{span(by(2), by(8)), 8, 9, false, true, []int{2}, []int{2}},
 		{span(by(2), never()), 2, 0, true, false, nil, nil}, // hangs on nobody
+		{span(by(2), never()), 2, 9, true, false, nil, nil},
+		{span(by(2), by(7)), 2, 9, false, false, []int{7}, nil},
 		{span(at(1), by(2)), 2, 9, false, true, nil, nil},
 		{span(by(7), by(2)), 2, 9, false, true, []int{7}, []int{7}},
 		{span(by(8), by(2)), 8, 9, false, false, []int{2}, nil},

@@ -453,6 +453,22 @@ func TestHangsFromAReadThatIsChecked(t *testing.T) {
 	w.finish(mine, api.OK)
 }
 
+// TestNeedsRise: whichever op came upon them first.
+func TestNeedsRise(t *testing.T) {
+	w := newWorld(t, 100, 0)
+	for i := range int64(4) {
+		w.prepared(insert(i, 0))
+	}
+	mine := w.begun(4, scan(is(3)), scan(is(0)), scan(key(api.CLe, 1)), scan(is(2)))
+	if !slices.Equal(mine.Needs(), []int{1, 2, 3, 4}) {
+		t.Error(mine.Needs())
+	}
+	mine.Needs()[0] = 99
+	if !slices.Equal(mine.Needs(), []int{1, 2, 3, 4}) {
+		t.Error("shared", mine.Needs())
+	}
+}
+
 // TestAnAbortedOneIsAheadOfWaiting: of several one is aborted, and another one prepares.
 func TestAnAbortedOneIsAheadOfWaiting(t *testing.T) {
 	w := newWorld(t, 100, 0)
@@ -473,9 +489,13 @@ func TestMostNeeds(t *testing.T) {
 		for i := range n {
 			others = append(others, w.prepared(insert(int64(100+i), 0)))
 		}
-		mine := w.begun(0, insert(50, 0), scan(yes()), scan(yes()))
-		w.steps(mine, 1, api.RSome)
-		if err != api.OK {
+		mine := w.begun(1, insert(50, 0), scan(yes()), scan(yes()))
+		if err == api.OK {
+			w.steps(mine, 2, api.RSome)
+			if len(mine.Needs()) != 8 {
+				t.Error(mine.Needs())
+			}
+		} else {
 			w.steps(mine, 1, api.ROver)
 			w.last(mine, api.Res{Err: api.ErrDeps})
 			w.over(mine, err)

@@ -87,6 +87,10 @@ func TestMay(t *testing.T) {
 	if !May(pred.Not(isNull(2)), z, 4) || !May(yes(), nil, 1) {
 		t.Error("one more row")
 	}
+	if May(compare(0, api.CEq, num(5)), []api.Zone{{Nulls: 3, Min: num(2), Max: num(8)}}, 3) {
+		t.Error("all are null")
+	}
+	May(compare(3, 1, num(1)), z, 3)
 	May(compare(99, 1, num(1)), z, 3)
 	May(compare(-1, 1, num(1)), z, 3)
 	May(api.Pred{}, nil, 3)
@@ -146,6 +150,10 @@ func TestMemoryIsNew(t *testing.T) {
 	z := Of(schema(), rows)
 	z[2].Min.Bytes[0] = 'z'
 	if string(rows[0][2].Bytes) != "ab" || string(z[2].Max.Bytes) != "ab" {
+		t.Error("shared")
+	}
+	z[2].Max.Bytes[0] = 'y'
+	if string(rows[0][2].Bytes) != "ab" || string(z[2].Min.Bytes) != "zb" {
 		t.Error("shared")
 	}
 }
