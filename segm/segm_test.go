@@ -132,6 +132,7 @@ func TestOpenRefuses(t *testing.T) {
 		{s, nil, false},
 		{s, []byte{0}, false},
 		{s, []byte{2}, false},
+		{s, []byte{255, 255, 255, 255, 255, 255, 255, 255, 255, 1}, false},
 		{s, code.Bytes([]byte{3}, two), false},
 		{s, code.Bytes([]byte{1}, two), false},
 		{s, append(code.Bytes([]byte{2}, two), 0), false},

@@ -103,11 +103,11 @@ func TestRounds(t *testing.T) {
 func TestTable(t *testing.T) {
 	check(t, run(
 		"table 1 0 id:int", "do insert 1", "do insert 2", "table 2 0 id:int", "state", "log", "check", "do insert 1;insert 2", "care 1 64",
-		"table 0 0 id:int", "table 1 0 id:int?", "table 1 id:int", "table 1 0", "table", "table 01 0 id:int", "table 1 0 id:int ", "table  1 0 id:int", "table 1234567890 0 id:int", "table 123456789 0 id:int", "table a 0 id:int",
+		"table 0 0 id:int", "table 1 0 id:int?", "table 1 id:int", "table 1 0", "table", "table 01 0 id:int", "table 1 0 id:int ", "table  1 0 id:int", "table 1 a id:int", "table 1234567890 0 id:int", "table 123456789 0 id:int", "table a 0 id:int",
 		"state",
 	),
 		"ok", "0 begin", "0 op 0 n 1", "0 commit 2", "0 begin", "0 op 0 error 4", "0 abort 4", "ok", "now 1 delta 0 groups 0 versions 0", "end", "yes", "0 begin", "0 op 0 n 1", "0 op 1 n 1", "0 commit 2", "no",
-		"ok", "bad", "bad", "bad", "bad", "bad", "bad", "bad", "bad", "ok", "bad",
+		"ok", "bad", "bad", "bad", "bad", "bad", "bad", "bad", "bad", "bad", "ok", "bad",
 		"now 1 delta 0 groups 0 versions 0",
 	)
 }
