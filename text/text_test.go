@@ -75,6 +75,17 @@ func TestParseValRefuses(t *testing.T) {
 	}
 }
 
+// TestOtherKindsHaveNoValues: what Val tells of other Kinds is no value's text.
+func TestOtherKindsHaveNoValues(t *testing.T) {
+	for _, kind := range []int{math.MinInt, -1, 0, 3, 9, math.MaxInt} {
+		for _, s := range []string{"null", "x", "x61", "0", "5", "-5", ""} {
+			if got, ok := ParseVal(kind, s); ok || !reflect.DeepEqual(got, api.Val{}) {
+				t.Errorf("%d %q %v", kind, s, got)
+			}
+		}
+	}
+}
+
 func TestPred(t *testing.T) {
 	for i, x := range []struct {
 		p    api.Pred
