@@ -140,6 +140,40 @@ func TestOpHasNothingElse(t *testing.T) {
 	}
 }
 
+// TestOpsOfOtherSchemas: an op is one on rows of a schema that is Ok.
+func TestOpsOfOtherSchemas(t *testing.T) {
+	ops := []api.Op{
+		{Kind: api.OInsert, Row: row()}, update(set(1, num(5))), {Kind: api.ODelete, Pred: yes()}, scan(0), agg(-1, count()), agg(0, count()), {Kind: api.ORoll},
+	}
+	change := func(f func(l []api.Col)) api.Schema {
+		s := schema()
+		f(s.Cols)
+		return s
+	}
+	more := schema()
+	more.Cols = append(more.Cols, api.Col{Name: "e", Kind: api.KInt}, api.Col{Name: "f", Kind: api.KInt})
+	for i, s := range []api.Schema{
+		{}, more,
+		change(func(l []api.Col) { l[0].Null = true }),
+		change(func(l []api.Col) { l[0].Kind = api.KBytes }),
+		change(func(l []api.Col) { l[4].Kind = 0 }),
+		change(func(l []api.Col) { l[4].Name = "" }),
+		change(func(l []api.Col) { l[4].Name = "C" }),
+		change(func(l []api.Col) { l[4].Name = "id" }),
+	} {
+		for _, o := range ops {
+			if Op(s, o) || Program(s, o) {
+				t.Error(i, o.Kind)
+			}
+		}
+	}
+	for _, o := range ops {
+		if !Op(schema(), o) || !Program(schema(), o) {
+			t.Error(o.Kind)
+		}
+	}
+}
+
 // TestMostSets: of a schema that has more columns than may be set.
 func TestMostSets(t *testing.T) {
 	s := schema()

@@ -97,6 +97,51 @@ func TestOp(t *testing.T) {
 	}
 }
 
+// TestOpsOfOtherSchemas: of a schema that is not Ok no op is told, and none is read.
+func TestOpsOfOtherSchemas(t *testing.T) {
+	ops := []struct {
+		o    api.Op
+		text string
+	}{
+		{api.Op{Kind: api.ORoll}, "rollback"},
+		{api.Op{Kind: api.OInsert, Row: []api.Val{num(1), num(2), num(3), num(4), num(5), num(6), num(7)}}, "insert 1,2,3,4,5,6,7"},
+		{api.Op{Kind: api.OInsert, Row: []api.Val{num(1)}}, "insert 1"},
+		{api.Op{Kind: api.OInsert, Row: []api.Val{raw("a")}}, "insert x61"},
+		{api.Op{Kind: api.OInsert}, "insert "},
+		{api.Op{Kind: api.OUpdate, Pred: yes(), Sets: []api.Set{{Col: 1, Val: num(5)}}}, "update b=5 where true"},
+		{api.Op{Kind: api.ODelete, Pred: yes()}, "delete where true"},
+		{api.Op{Kind: api.ODelete, Pred: compare(0, api.CEq, num(1))}, "delete where a = 1"},
+		{api.Op{Kind: api.OScan, Pred: yes(), Cols: []int{0}}, "scan a where true"},
+		{api.Op{Kind: api.OAgg, Pred: yes(), Group: -1, Aggs: []api.Agg{{Kind: api.ACount}}}, "agg - count where true"},
+		{api.Op{Kind: api.OAgg, Pred: yes(), Group: 0, Aggs: []api.Agg{{Kind: api.AMax}}}, "agg a max(a) where true"},
+	}
+	ints := func(names ...string) []api.Col {
+		var l []api.Col
+		for _, name := range names {
+			l = append(l, api.Col{Name: name, Kind: api.KInt})
+		}
+		return l
+	}
+	for i, cols := range [][]api.Col{
+		nil, ints("a", "b", "c", "d", "e", "f", "g"), ints("a", "a"), ints("A"), ints(""), ints("a", "B"), ints("a", "bcdefghij"),
+		{{Name: "a", Kind: api.KBytes}}, {{Name: "a", Kind: api.KInt, Null: true}}, {{Name: "a"}}, {{Name: "a", Kind: api.KInt}, {Name: "b", Kind: 3}},
+	} {
+		s := api.Schema{Cols: cols}
+		for _, x := range ops {
+			if got := Op(s, x.o); got != "" {
+				t.Error(i, got)
+			}
+			if got, ok := ParseOp(s, x.text); ok || !reflect.DeepEqual(got, api.Op{}) {
+				t.Error(i, x.text, got)
+			}
+		}
+	}
+	six := api.Schema{Cols: ints("a", "b", "c", "d", "e", "f")}
+	if got := Op(six, ops[0].o); got != "rollback" {
+		t.Error(got)
+	}
+}
+
 func TestParseOpRefuses(t *testing.T) {
 	for _, s := range []string{
 		"", " ", "insert", "insert ", "insert 1", "insert 1,2,x", "insert 1,2,x,x,x", "insert 1,2,x,null", "insert null,2,x,x", "insert 01,2,x,x", "insert 1, 2,x,x", "insert 1,2,x,x ", "insert  1,2,x,x", "insert 1,2,3,x",
@@ -113,8 +158,6 @@ func TestParseOpRefuses(t *testing.T) {
 			t.Errorf("%q %v", s, got)
 		}
 	}
-	ParseOp(api.Schema{}, "insert 1")
-	ParseOp(api.Schema{}, "agg - count where true")
 }
 
 // TestAnyOpAndAnyText: W5.
