@@ -147,6 +147,25 @@ func TestLines(t *testing.T) {
 	}
 }
 
+// TestEmptyLinesAreNotCounted: only lines that are answered are among the 1,000.
+func TestEmptyLinesAreNotCounted(t *testing.T) {
+	const table, answer = "table 100 10 id:int\n", "ok\n"
+	many := strings.Repeat("\n", 1<<24)
+	for i, x := range []struct{ in, want string }{
+		{table + strings.Repeat("check\n\n", 1005), answer + strings.Repeat("yes\n", 999)},
+		{table + strings.Repeat("\n\n\ncheck\n", 999), answer + strings.Repeat("yes\n", 999)},
+		{strings.Repeat("\n", 1000) + table + "\n" + strings.Repeat("check\n", 998) + "\n\ncheck", answer + strings.Repeat("yes\n", 999)},
+		{strings.Repeat("what\n\n", 999) + table + "\ncheck", strings.Repeat("bad\n", 999) + answer},
+		{strings.Repeat("what\n\n", 1000) + table + "\ncheck", strings.Repeat("bad\n", 1000)},
+		{many, ""},
+		{many + table + many + "check" + many + "check", answer + "yes\nyes\n"},
+	} {
+		if got := string(Main([]byte(x.in))); got != x.want {
+			t.Error(i, len(got), len(x.want))
+		}
+	}
+}
+
 func someOp(rnd *rand.Rand) string {
 	where := " where id " + []string{"=", "!=", "<", "<=", ">", ">="}[rnd.Intn(6)] + " " + strconv.Itoa(rnd.Intn(7))
 	if rnd.Intn(5) == 0 {
